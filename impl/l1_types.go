@@ -1,0 +1,342 @@
+package impl
+
+import "strings"
+
+// Type is the type of numbers, one of functions, or the name of a type, which may be in a module.
+type Type struct {
+	Kind int
+	Mod  string
+	Name string
+	Kids []Type
+}
+
+// Bind says what a name of a type stands for.
+type Bind struct {
+	Mod  string
+	Name string
+	Type Type
+}
+
+// Kinds of types, and limits.
+const (
+	TypeNum      = 1
+	TypeFun      = 2
+	TypeName     = 3
+	MaxTypeDepth = 8
+	MaxTypeNodes = 63
+)
+
+// LocalName reports whether a text is the name of a type or of a value.
+func LocalName(s string) bool {
+	return len(s) == 1 && 'a' <= s[0] && s[0] <= 'z'
+}
+
+// ModuleName reports whether a text is the name of a module.
+func ModuleName(s string) bool {
+	return len(s) == 1 && 'A' <= s[0] && s[0] <= 'Z' && s != "I"
+}
+
+// TypeValid reports whether t is valid.
+func TypeValid(t Type) bool {
+	_, ok := readType(t)
+	return ok
+}
+
+// TypeSame reports whether a and b are equal.
+// An invalid type may be of any depth, and may even contain itself. Hence the stack of its own
+// instead of recursion, and the classes, by which nothing is compared again.
+func TypeSame(a Type, b Type) bool {
+	type pair struct{ a, b []Type }
+	classes := kidClasses{}
+	work := []pair{{[]Type{a}, []Type{b}}}
+	for len(work) > 0 {
+		p := work[len(work)-1]
+		work = work[:len(work)-1]
+		for i, x := range p.a {
+			y := p.b[i]
+			if !sameNode(x, y) {
+				return false
+			}
+			if classes.join(x.Kids, y.Kids) {
+				work = append(work, pair{x.Kids, y.Kids})
+			}
+		}
+	}
+	return true
+}
+
+// FormatType returns the text of t.
+func FormatType(t Type) string {
+	v, ok := readType(t)
+	if !ok {
+		return ""
+	}
+	var b strings.Builder
+	v.write(&b)
+	return b.String()
+}
+
+// ParseType parses the text of a type.
+func ParseType(text string) (Type, bool) {
+	v, rest, ok := parseType(text, 1)
+	if !ok || rest != "" || !withinLimits(v) {
+		return Type{}, false
+	}
+	return v.plain(), true
+}
+
+// SubstType replaces names in a type.
+func SubstType(t Type, binds []Bind) (Type, bool) {
+	v, ok := readType(t)
+	if !ok {
+		return Type{}, false
+	}
+	bound, ok := readBinds(binds)
+	if !ok {
+		return Type{}, false
+	}
+	result := v.subst(bound)
+	if !withinLimits(result) {
+		return Type{}, false
+	}
+	return result.plain(), true
+}
+
+// TypeNames returns the names that occur in a type.
+func TypeNames(t Type) []Type {
+	v, ok := readType(t)
+	if !ok {
+		return nil
+	}
+	seen := map[nameType]bool{}
+	var names []Type
+	v.eachName(func(n nameType) {
+		if !seen[n] {
+			seen[n] = true
+			names = append(names, n.plain())
+		}
+	})
+	return names
+}
+
+// TypeCount returns the number of nodes of t.
+func TypeCount(t Type) int {
+	v, ok := readType(t)
+	if !ok {
+		return 0
+	}
+	return v.count()
+}
+
+// validType is a type whose nodes have been checked. Only the three kinds below implement it.
+// It is never changed, so parts of it may be shared; plain makes new memory.
+type validType interface {
+	depth() int
+	count() int
+	write(b *strings.Builder)
+	eachName(visit func(nameType))
+	subst(bound map[nameType]validType) validType
+	plain() Type
+}
+
+type numType struct{}
+
+type funType struct{ from, to validType }
+
+// nameType is comparable, so that it can be the key of a map.
+type nameType struct{ mod, name string }
+
+func (numType) depth() int  { return 1 }
+func (nameType) depth() int { return 1 }
+func (f funType) depth() int {
+	return 1 + max(f.from.depth(), f.to.depth())
+}
+
+func (numType) count() int  { return 1 }
+func (nameType) count() int { return 1 }
+func (f funType) count() int {
+	return 1 + f.from.count() + f.to.count()
+}
+
+func (numType) write(b *strings.Builder) { b.WriteByte('I') }
+
+func (n nameType) write(b *strings.Builder) {
+	if n.mod != "" {
+		b.WriteString(n.mod)
+		b.WriteByte('.')
+	}
+	b.WriteString(n.name)
+}
+
+func (f funType) write(b *strings.Builder) {
+	b.WriteByte('(')
+	f.from.write(b)
+	b.WriteByte('>')
+	f.to.write(b)
+	b.WriteByte(')')
+}
+
+func (numType) eachName(visit func(nameType))    {}
+func (n nameType) eachName(visit func(nameType)) { visit(n) }
+func (f funType) eachName(visit func(nameType)) {
+	f.from.eachName(visit)
+	f.to.eachName(visit)
+}
+
+func (numType) subst(bound map[nameType]validType) validType { return numType{} }
+
+func (n nameType) subst(bound map[nameType]validType) validType {
+	if v, ok := bound[n]; ok {
+		return v
+	}
+	return n
+}
+
+func (f funType) subst(bound map[nameType]validType) validType {
+	return funType{f.from.subst(bound), f.to.subst(bound)}
+}
+
+func (numType) plain() Type    { return Type{Kind: TypeNum} }
+func (n nameType) plain() Type { return Type{Kind: TypeName, Mod: n.mod, Name: n.name} }
+func (f funType) plain() Type {
+	return Type{Kind: TypeFun, Kids: []Type{f.from.plain(), f.to.plain()}}
+}
+
+func withinLimits(v validType) bool {
+	return v.depth() <= MaxTypeDepth && v.count() <= MaxTypeNodes
+}
+
+func readType(t Type) (validType, bool) {
+	v, ok := readNode(t, 1)
+	if !ok || !withinLimits(v) {
+		return nil, false
+	}
+	return v, true
+}
+
+// readNode goes no deeper than a valid type, because t may contain itself.
+func readNode(t Type, depth int) (validType, bool) {
+	if depth > MaxTypeDepth {
+		return nil, false
+	}
+	switch t.Kind {
+	case TypeNum:
+		return numType{}, t.Mod == "" && t.Name == "" && len(t.Kids) == 0
+	case TypeFun:
+		return readFun(t, depth)
+	case TypeName:
+		inModule := t.Mod == "" || ModuleName(t.Mod)
+		return nameType{t.Mod, t.Name}, inModule && LocalName(t.Name) && len(t.Kids) == 0
+	}
+	return nil, false
+}
+
+func readFun(t Type, depth int) (validType, bool) {
+	if t.Mod != "" || t.Name != "" || len(t.Kids) != 2 {
+		return nil, false
+	}
+	from, ok := readNode(t.Kids[0], depth+1)
+	if !ok {
+		return nil, false
+	}
+	to, ok := readNode(t.Kids[1], depth+1)
+	return funType{from, to}, ok
+}
+
+func readBinds(binds []Bind) (map[nameType]validType, bool) {
+	bound := map[nameType]validType{}
+	for _, b := range binds {
+		name := nameType{b.Mod, b.Name}
+		v, ok := readType(b.Type)
+		if !ok || !TypeValid(name.plain()) {
+			return nil, false
+		}
+		if _, again := bound[name]; !again {
+			bound[name] = v
+		}
+	}
+	return bound, true
+}
+
+// parseType reads the type at the beginning of text and returns what comes behind it.
+// It goes no deeper than a valid type, because the text may be of any length.
+func parseType(text string, depth int) (validType, string, bool) {
+	if text == "" || depth > MaxTypeDepth {
+		return nil, "", false
+	}
+	switch text[0] {
+	case 'I':
+		return numType{}, text[1:], true
+	case '(':
+		return parseFun(text[1:], depth)
+	}
+	return parseName(text)
+}
+
+func parseFun(text string, depth int) (validType, string, bool) {
+	from, rest, ok := parseType(text, depth+1)
+	if !ok || !strings.HasPrefix(rest, ">") {
+		return nil, "", false
+	}
+	to, rest, ok := parseType(rest[1:], depth+1)
+	if !ok || !strings.HasPrefix(rest, ")") {
+		return nil, "", false
+	}
+	return funType{from, to}, rest[1:], true
+}
+
+func parseName(text string) (validType, string, bool) {
+	mod := ""
+	if ModuleName(text[:1]) {
+		if !strings.HasPrefix(text[1:], ".") {
+			return nil, "", false
+		}
+		mod, text = text[:1], text[2:]
+	}
+	if text == "" || !LocalName(text[:1]) {
+		return nil, "", false
+	}
+	return nameType{mod, text[:1]}, text[1:], true
+}
+
+func sameNode(a Type, b Type) bool {
+	return a.Kind == b.Kind && a.Mod == b.Mod && a.Name == b.Name && len(a.Kids) == len(b.Kids)
+}
+
+// kidList tells a list of Kids from others by where it begins and how long it is.
+type kidList struct {
+	first *Type
+	size  int
+}
+
+// kidClasses holds lists of Kids that are equal unless a difference is found. Each list points to
+// another one of its class, except for one list, which represents the class.
+type kidClasses map[kidList]kidList
+
+// join puts two lists of the same length in one class, and reports whether they have to be compared.
+func (c kidClasses) join(a []Type, b []Type) bool {
+	if len(a) == 0 {
+		return false
+	}
+	x := c.find(kidList{&a[0], len(a)})
+	y := c.find(kidList{&b[0], len(b)})
+	if x == y {
+		return false
+	}
+	c[x] = y
+	return true
+}
+
+// find returns the list that represents the class of l. It shortens the way there for later calls.
+func (c kidClasses) find(l kidList) kidList {
+	for {
+		up, ok := c[l]
+		if !ok {
+			return l
+		}
+		if top, ok := c[up]; ok {
+			c[l] = top
+		}
+		l = up
+	}
+}
