@@ -136,6 +136,7 @@ type validType interface {
 	write(b *strings.Builder)
 	eachName(visit func(nameType))
 	subst(bound map[nameType]validType) validType
+	same(other validType) bool
 	plain() Type
 }
 
@@ -194,6 +195,21 @@ func (n nameType) subst(bound map[nameType]validType) validType {
 
 func (f funType) subst(bound map[nameType]validType) validType {
 	return funType{f.from.subst(bound), f.to.subst(bound)}
+}
+
+func (numType) same(other validType) bool {
+	_, ok := other.(numType)
+	return ok
+}
+
+func (n nameType) same(other validType) bool {
+	o, ok := other.(nameType)
+	return ok && n == o
+}
+
+func (f funType) same(other validType) bool {
+	o, ok := other.(funType)
+	return ok && f.from.same(o.from) && f.to.same(o.to)
 }
 
 func (numType) plain() Type    { return Type{Kind: TypeNum} }
