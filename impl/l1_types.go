@@ -43,26 +43,8 @@ func TypeValid(t Type) bool {
 }
 
 // TypeSame reports whether a and b are equal.
-// An invalid type may be of any depth, and may even contain itself. Hence the stack of its own
-// instead of recursion, and the classes, by which nothing is compared again.
 func TypeSame(a Type, b Type) bool {
-	type pair struct{ a, b []Type }
-	classes := kidClasses{}
-	work := []pair{{[]Type{a}, []Type{b}}}
-	for len(work) > 0 {
-		p := work[len(work)-1]
-		work = work[:len(work)-1]
-		for i, x := range p.a {
-			y := p.b[i]
-			if !sameNode(x, y) {
-				return false
-			}
-			if classes.join(x.Kids, y.Kids) {
-				work = append(work, pair{x.Kids, y.Kids})
-			}
-		}
-	}
-	return true
+	return typeComparison().same(a, b)
 }
 
 // FormatType returns the text of t.
@@ -71,9 +53,7 @@ func FormatType(t Type) string {
 	if !ok {
 		return ""
 	}
-	var b strings.Builder
-	v.write(&b)
-	return b.String()
+	return textOf(v)
 }
 
 // ParseType parses the text of a type.
@@ -108,14 +88,8 @@ func TypeNames(t Type) []Type {
 	if !ok {
 		return nil
 	}
-	seen := map[nameType]bool{}
 	var names []Type
-	v.eachName(func(n nameType) {
-		if !seen[n] {
-			seen[n] = true
-			names = append(names, n.plain())
-		}
-	})
+	v.eachName(once(func(n nameType) { names = append(names, n.plain()) }))
 	return names
 }
 
@@ -241,8 +215,7 @@ func readNode(t Type, depth int) (validType, bool) {
 	case TypeFun:
 		return readFun(t, depth)
 	case TypeName:
-		inModule := t.Mod == "" || ModuleName(t.Mod)
-		return nameType{t.Mod, t.Name}, inModule && LocalName(t.Name) && len(t.Kids) == 0
+		return nameType{t.Mod, t.Name}, validName(t.Mod, t.Name) && len(t.Kids) == 0
 	}
 	return nil, false
 }
@@ -264,7 +237,7 @@ func readBinds(binds []Bind) (map[nameType]validType, bool) {
 	for _, b := range binds {
 		name := nameType{b.Mod, b.Name}
 		v, ok := readType(b.Type)
-		if !ok || !TypeValid(name.plain()) {
+		if !ok || !validName(b.Mod, b.Name) {
 			return nil, false
 		}
 		if _, again := bound[name]; !again {
@@ -286,7 +259,8 @@ func parseType(text string, depth int) (validType, string, bool) {
 	case '(':
 		return parseFun(text[1:], depth)
 	}
-	return parseName(text)
+	n, rest, ok := parseName(text)
+	return n, rest, ok
 }
 
 func parseFun(text string, depth int) (validType, string, bool) {
@@ -301,41 +275,97 @@ func parseFun(text string, depth int) (validType, string, bool) {
 	return funType{from, to}, rest[1:], true
 }
 
-func parseName(text string) (validType, string, bool) {
+func parseName(text string) (nameType, string, bool) {
 	mod := ""
-	if ModuleName(text[:1]) {
+	if text != "" && ModuleName(text[:1]) {
 		if !strings.HasPrefix(text[1:], ".") {
-			return nil, "", false
+			return nameType{}, "", false
 		}
 		mod, text = text[:1], text[2:]
 	}
 	if text == "" || !LocalName(text[:1]) {
-		return nil, "", false
+		return nameType{}, "", false
 	}
 	return nameType{mod, text[:1]}, text[1:], true
 }
 
-func sameNode(a Type, b Type) bool {
-	return a.Kind == b.Kind && a.Mod == b.Mod && a.Name == b.Name && len(a.Kids) == len(b.Kids)
+// validName reports whether a name is a local one, alone or in a module.
+func validName(mod, name string) bool {
+	return (mod == "" || ModuleName(mod)) && LocalName(name)
 }
 
-// kidList tells a list of Kids from others by where it begins and how long it is.
-type kidList struct {
-	first *Type
+// texted is what has a text.
+type texted interface{ write(b *strings.Builder) }
+
+func textOf(v texted) string {
+	var b strings.Builder
+	v.write(&b)
+	return b.String()
+}
+
+// once calls visit for the first of several equal keys only.
+func once[K comparable](visit func(K)) func(K) {
+	seen := map[K]bool{}
+	return func(k K) {
+		if !seen[k] {
+			seen[k] = true
+			visit(k)
+		}
+	}
+}
+
+// comparison compares trees. One that is not valid may be of any depth, and may even contain itself.
+// Hence the stack of its own instead of recursion, and the classes, by which nothing is compared again,
+// in later comparisons either, which mean something only as long as no difference has been found.
+type comparison[N any] struct {
+	kids     func(N) []N
+	sameNode func(a, b N) bool // without the kids
+	classes  kidClasses[N]
+}
+
+func typeComparison() comparison[Type] {
+	kids := func(t Type) []Type { return t.Kids }
+	sameNode := func(a, b Type) bool { return a.Kind == b.Kind && a.Mod == b.Mod && a.Name == b.Name }
+	return comparison[Type]{kids, sameNode, kidClasses[Type]{}}
+}
+
+func (c comparison[N]) same(a N, b N) bool {
+	type pair struct{ a, b []N }
+	work := []pair{{[]N{a}, []N{b}}}
+	for len(work) > 0 {
+		p := work[len(work)-1]
+		work = work[:len(work)-1]
+		for i, x := range p.a {
+			y := p.b[i]
+			next := pair{c.kids(x), c.kids(y)}
+			if len(next.a) != len(next.b) || !c.sameNode(x, y) {
+				return false
+			}
+			if c.classes.join(next.a, next.b) {
+				work = append(work, next)
+			}
+		}
+	}
+	return true
+}
+
+// kidList tells a list of kids from others by where it begins and how long it is.
+type kidList[N any] struct {
+	first *N
 	size  int
 }
 
-// kidClasses holds lists of Kids that are equal unless a difference is found. Each list points to
+// kidClasses holds lists of kids that are equal unless a difference is found. Each list points to
 // another one of its class, except for one list, which represents the class.
-type kidClasses map[kidList]kidList
+type kidClasses[N any] map[kidList[N]]kidList[N]
 
 // join puts two lists of the same length in one class, and reports whether they have to be compared.
-func (c kidClasses) join(a []Type, b []Type) bool {
+func (c kidClasses[N]) join(a []N, b []N) bool {
 	if len(a) == 0 {
 		return false
 	}
-	x := c.find(kidList{&a[0], len(a)})
-	y := c.find(kidList{&b[0], len(b)})
+	x := c.find(kidList[N]{&a[0], len(a)})
+	y := c.find(kidList[N]{&b[0], len(b)})
 	if x == y {
 		return false
 	}
@@ -344,7 +374,7 @@ func (c kidClasses) join(a []Type, b []Type) bool {
 }
 
 // find returns the list that represents the class of l. It shortens the way there for later calls.
-func (c kidClasses) find(l kidList) kidList {
+func (c kidClasses[N]) find(l kidList[N]) kidList[N] {
 	for {
 		up, ok := c[l]
 		if !ok {
