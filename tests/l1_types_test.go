@@ -455,13 +455,7 @@ func TestTypeSameOfLargeTypes(t *testing.T) {
 	if !impl.TypeSame(chain(depth, true, num), chain(depth, true, num)) || impl.TypeSame(chain(depth, true, num), chain(depth, true, name("", "t"))) {
 		t.Error("TypeSame is wrong for deep types")
 	}
-	shared := func(leaf impl.Type) impl.Type {
-		x := leaf
-		for range 200 {
-			x = fun(x, x)
-		}
-		return x
-	}
+	shared := func(leaf impl.Type) impl.Type { return sharedType(200, leaf) }
 	if !impl.TypeSame(shared(num), shared(num)) || impl.TypeSame(shared(num), shared(name("", "t"))) {
 		t.Error("TypeSame is wrong for types with shared parts")
 	}

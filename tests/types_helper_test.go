@@ -38,6 +38,14 @@ func full(depth int, leaf impl.Type) impl.Type {
 	return fun(full(depth-1, leaf), full(depth-1, leaf))
 }
 
+// sharedType has two to the power of levels leaves, of which most are the same memory.
+func sharedType(levels int, leaf impl.Type) impl.Type {
+	for range levels {
+		leaf = fun(leaf, leaf)
+	}
+	return leaf
+}
+
 func fullText(depth int, leaf string) string {
 	if depth == 1 {
 		return leaf
