@@ -323,6 +323,20 @@ func randomStruct(random *rand.Rand) ([]impl.Item, string) {
 	return s, "{" + strings.Join(parts, ";") + "}"
 }
 
+// eachText visits all texts of at most so many tokens.
+func eachText(tokens []string, most int, visit func(text string)) {
+	var longer func(text string, most int)
+	longer = func(text string, most int) {
+		visit(text)
+		for _, token := range tokens {
+			if most > 0 {
+				longer(text+token, most-1)
+			}
+		}
+	}
+	longer("", most)
+}
+
 // changedBytes changes, removes or inserts a few bytes of a text.
 func changedBytes(random *rand.Rand, text, alphabet string) string {
 	for range random.Intn(3) {

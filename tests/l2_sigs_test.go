@@ -60,10 +60,8 @@ func TestTextsThatAreNoSig(t *testing.T) {
 
 // TestAllShortSigTexts compares ParseSig, for each text of a small alphabet, with a reading by splitting.
 func TestAllShortSigTexts(t *testing.T) {
-	const longest = 7
 	accepted := 0
-	var visit func(inner string)
-	visit = func(inner string) {
+	eachText(strings.Split(";=:tuIA.", ""), 7, func(inner string) {
 		text := "{" + inner + "}"
 		got, ok := impl.ParseSig(text)
 		if want := isSigText(text); ok != want || ok && impl.FormatSig(got) != text || !ok && len(got) != 0 {
@@ -72,14 +70,7 @@ func TestAllShortSigTexts(t *testing.T) {
 		if ok {
 			accepted++
 		}
-		if len(inner) == longest {
-			return
-		}
-		for _, c := range ";=:tuIA." {
-			visit(inner + string(c))
-		}
-	}
-	visit("")
+	})
 	if accepted < 50 {
 		t.Errorf("only %d texts are accepted", accepted)
 	}

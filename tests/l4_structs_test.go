@@ -99,9 +99,7 @@ func TestTextsThatAreNoStruct(t *testing.T) {
 func TestAllShortStructTexts(t *testing.T) {
 	accepted := 0
 	for tokens, most := range map[string]int{"{ } ; = : t I x 1": 5, "; = : t I x 1": 6, "t = I ; : 1": 7, "t= x:= I t 1 x ; [t]": 7, "t= t:= u= I [t] ; 1": 7, "t := = t; 1; I; [t]": 7} {
-		list := strings.Split(tokens, " ")
-		var visit func(inner string, most int)
-		visit = func(inner string, most int) {
+		eachText(strings.Split(tokens, " "), most, func(inner string) {
 			text := "{" + inner + "}"
 			got, ok := impl.ParseStruct(text)
 			if want := isStructText(text); ok != want || ok && impl.FormatStruct(got) != text || !ok && len(got) != 0 {
@@ -110,13 +108,7 @@ func TestAllShortStructTexts(t *testing.T) {
 			if ok {
 				accepted++
 			}
-			for _, token := range list {
-				if most > 0 {
-					visit(inner+token, most-1)
-				}
-			}
-		}
-		visit("", most)
+		})
 	}
 	if accepted < 40 {
 		t.Errorf("only %d texts are accepted", accepted)
