@@ -1,6 +1,9 @@
 package impl
 
-import "strings"
+import (
+	"slices"
+	"strings"
+)
 
 // Type is the type of numbers, one of functions, or the name of a type, which may be in a module.
 type Type struct {
@@ -320,13 +323,13 @@ func once[K comparable](visit func(K)) func(K) {
 type comparison[N any] struct {
 	kids     func(N) []N
 	sameNode func(a, b N) bool // without the kids
-	classes  kidClasses[N]
+	classes  listClasses[N]
 }
 
 func typeComparison() comparison[Type] {
 	kids := func(t Type) []Type { return t.Kids }
 	sameNode := func(a, b Type) bool { return a.Kind == b.Kind && a.Mod == b.Mod && a.Name == b.Name }
-	return comparison[Type]{kids, sameNode, kidClasses[Type]{}}
+	return comparison[Type]{kids, sameNode, listClasses[Type]{}}
 }
 
 func (c comparison[N]) same(a N, b N) bool {
@@ -349,23 +352,29 @@ func (c comparison[N]) same(a N, b N) bool {
 	return true
 }
 
-// kidList tells a list of kids from others by where it begins and how long it is.
-type kidList[N any] struct {
+// listPlace tells a list from others by where it begins and how long it is.
+type listPlace[N any] struct {
 	first *N
 	size  int
 }
 
-// kidClasses holds lists of kids that are equal unless a difference is found. Each list points to
-// another one of its class, except for one list, which represents the class.
-type kidClasses[N any] map[kidList[N]]kidList[N]
+// listClasses holds lists that are equal unless a difference is found. Each list points to another one of
+// its class, except for one list, which represents the class.
+type listClasses[N any] map[listPlace[N]]listPlace[N]
+
+// same compares lists element by element, unless that has been done before: a list may be a part of
+// very many others.
+func (c listClasses[N]) same(a, b []N, sameElement func(x, y N) bool) bool {
+	return len(a) == len(b) && (!c.join(a, b) || slices.EqualFunc(a, b, sameElement))
+}
 
 // join puts two lists of the same length in one class, and reports whether they have to be compared.
-func (c kidClasses[N]) join(a []N, b []N) bool {
+func (c listClasses[N]) join(a []N, b []N) bool {
 	if len(a) == 0 {
 		return false
 	}
-	x := c.find(kidList[N]{&a[0], len(a)})
-	y := c.find(kidList[N]{&b[0], len(b)})
+	x := c.find(listPlace[N]{&a[0], len(a)})
+	y := c.find(listPlace[N]{&b[0], len(b)})
 	if x == y {
 		return false
 	}
@@ -374,7 +383,7 @@ func (c kidClasses[N]) join(a []N, b []N) bool {
 }
 
 // find returns the list that represents the class of l. It shortens the way there for later calls.
-func (c kidClasses[N]) find(l kidList[N]) kidList[N] {
+func (c listClasses[N]) find(l listPlace[N]) listPlace[N] {
 	for {
 		up, ok := c[l]
 		if !ok {

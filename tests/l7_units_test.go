@@ -438,8 +438,8 @@ func checkSmallChanges(t *testing.T, text string) {
 func TestUnitSameOfLargeUnits(t *testing.T) {
 	large := func(leaf impl.Type, n int) impl.Unit {
 		x, e := chain(1000, true, leaf), call(lambda(chain(1000, false, leaf), deep(1000)), number(n))
-		sig := slices.Repeat(items(val("x", x)), 200)
-		return impl.Unit{Name: "C", Params: slices.Repeat(modules(module("P", sig)), 200), Body: slices.Repeat(defs(impl.Item{Kind: 2, Type: x, Expr: e}), 20000), Face: sig}
+		sig := slices.Repeat(items(val("x", x)), 20000)
+		return impl.Unit{Name: "C", Params: slices.Repeat(modules(module("P", sig)), 20000), Body: slices.Repeat(defs(impl.Item{Kind: 2, Type: x, Expr: e}), 20000), Face: sig}
 	}
 	a := large(num, 1)
 	if !impl.UnitSame(a, large(num, 1)) || impl.UnitSame(a, large(num, 2)) || impl.UnitSame(a, large(name("", "t"), 1)) {
