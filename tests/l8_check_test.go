@@ -24,12 +24,17 @@ type programTest struct {
 	code, at int
 }
 
+// linesText returns the text of a program whose lines are separated by bars.
+func linesText(lines string) string {
+	known := strings.NewReplacer("$A", counterUnit, "$D", otherCounter, "$F", twiceFunctor, "$G", pairFunctor, "$E", viewUnit, "|", "\n")
+	return known.Replace(lines) + "\n"
+}
+
 // checkPrograms checks all functions for programs with these results.
 func checkPrograms(t *testing.T, list []programTest) {
 	t.Helper()
-	known := strings.NewReplacer("$A", counterUnit, "$D", otherCounter, "$F", twiceFunctor, "$G", pairFunctor, "$E", viewUnit, "|", "\n")
 	for _, test := range list {
-		text := known.Replace(test.lines) + "\n"
+		text := linesText(test.lines)
 		if r := checkProgram(t, text); r.code != test.code || r.at != test.at {
 			t.Errorf("checkTexts(%q) = %d, %d, want %d, %d", text, r.code, r.at, test.code, test.at)
 		}

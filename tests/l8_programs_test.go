@@ -80,6 +80,7 @@ func checkInvalidProgram(t *testing.T, p impl.Program) {
 	if typ, code := impl.MainType(p); code != impl.ProgInvalid || !zeroType(typ) {
 		t.Errorf("MainType = %v, %d", typ, code)
 	}
+	checkNotLinked(t, p, impl.LinkInvalid)
 	if !impl.ProgramSame(p, p) {
 		t.Error("a program is not the same as itself")
 	}

@@ -216,6 +216,11 @@ func checkProgram(t *testing.T, text string) checkedTexts {
 	t.Helper()
 	p, want := parsedProgram(t, text), checkTexts(text)
 	checkResults(t, p, want)
+	if want.code == impl.ProgOk {
+		checkLinked(t, text)
+	} else {
+		checkNotLinked(t, p, impl.LinkCheck)
+	}
 	if !impl.ProgramValid(p) || !impl.ProgramSame(p, copyProgram(p)) || impl.FormatProgram(p) != text {
 		t.Fatalf("FormatProgram(%q) = %q", text, impl.FormatProgram(p))
 	}
