@@ -162,6 +162,19 @@ func otherBody(random *rand.Rand, c textChecker, face string) string {
 	return "{" + strings.Join(parts, ";") + "}"
 }
 
+// otherUnit returns a unit that differs from the one in a declaration by its body only, and checks behind others, if
+// it finds one.
+func otherUnit(random *rand.Rand, before []impl.Decl, d impl.Decl) (impl.Unit, bool) {
+	u, ok := splitUnit(impl.FormatUnit(d.Unit))
+	if !ok {
+		return impl.Unit{}, false
+	}
+	scope, _ := impl.ProgramScope(impl.Program{Decls: before, Main: number(1)})
+	body, ok := impl.ParseStruct(otherBody(random, newTextChecker(u.longer(scopeText(scope))), u.face))
+	other := impl.Unit{Name: d.Unit.Name, Params: d.Unit.Params, Body: body, Face: d.Unit.Face}
+	return other, ok && !impl.StructSame(body, d.Unit.Body) && impl.CheckUnit(scope, other) == impl.UnitOk
+}
+
 // TestOnlySignaturesMatter checks promise 8: programs in which units have other bodies that offer as much
 // have the same results.
 func TestOnlySignaturesMatter(t *testing.T) {
@@ -174,18 +187,12 @@ func TestOnlySignaturesMatter(t *testing.T) {
 			if i >= r.at && r.code != impl.ProgMain {
 				break
 			}
-			u, ok := splitUnit(programLines(text)[i])
+			changed, ok := otherUnit(random, p.Decls[:i], d)
 			if !ok {
 				continue
 			}
-			scope, _ := impl.ProgramScope(impl.Program{Decls: p.Decls[:i], Main: number(1)})
-			other, ok := impl.ParseStruct(otherBody(random, newTextChecker(u.longer(scopeText(scope))), u.face))
-			changed := impl.Unit{Name: d.Unit.Name, Params: d.Unit.Params, Body: other, Face: d.Unit.Face}
-			if !ok || impl.StructSame(other, d.Unit.Body) || impl.CheckUnit(scope, changed) != impl.UnitOk {
-				continue
-			}
 			p.Decls[i].Unit = changed
-			if replaced++; len(u.params) > 0 {
+			if replaced++; len(changed.Params) > 0 {
 				functors++
 			}
 		}
