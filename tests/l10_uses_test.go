@@ -127,20 +127,27 @@ func checkInvalidChange(t *testing.T, old, now impl.Program) {
 	}
 }
 
+// invalidPrograms lists programs that are not valid, of which many are like a valid one with three declarations.
+func invalidPrograms(t *testing.T, good impl.Program) []impl.Program {
+	t.Helper()
+	list := []impl.Program{{}, {Decls: good.Decls}, program(number(100), good.Decls...), program(exprLoop(1, number(1)), good.Decls...), program(sharedExpr(200, number(1)), good.Decls...), program(good.Main, append(slices.Clone(good.Decls), good.Decls[0])...), program(good.Main, slices.Repeat(good.Decls, 3)...), {Decls: make([]impl.Decl, 1000000), Main: number(1)}, largeProgram(1, "A"), largeProgram(2, "B")}
+	for _, e := range invalidExprs() {
+		list = append(list, program(e, good.Decls...))
+	}
+	for i, d := range invalidDecls(t) {
+		p := copyProgram(good)
+		p.Decls[i%3] = d
+		list = append(list, p)
+	}
+	return list
+}
+
 // TestInvalidProgramsOnEitherSide has a program that is not valid together with one that is, with itself, and with
 // another one.
 func TestInvalidProgramsOnEitherSide(t *testing.T) {
 	good := parsedProgram(t, linesText("$A|$F|B=F(A)|main (B.g B.z)"))
 	unchecked := parsedProgram(t, linesText("$A|$F|B=F(A)|main (B.g A.z)"))
-	bad := []impl.Program{{}, {Decls: good.Decls}, program(number(100), good.Decls...), program(exprLoop(1, number(1)), good.Decls...), program(sharedExpr(200, number(1)), good.Decls...), program(good.Main, append(slices.Clone(good.Decls), good.Decls[0])...), program(good.Main, slices.Repeat(good.Decls, 3)...), {Decls: make([]impl.Decl, 1000000), Main: number(1)}, largeProgram(1, "A"), largeProgram(2, "B")}
-	for _, e := range invalidExprs() {
-		bad = append(bad, program(e, good.Decls...))
-	}
-	for i, d := range invalidDecls(t) {
-		p := copyProgram(good)
-		p.Decls[i%3] = d
-		bad = append(bad, p)
-	}
+	bad := invalidPrograms(t, good)
 	for i, p := range bad {
 		for _, q := range []impl.Program{good, unchecked, program(number(1)), program(path("A", "x"))} {
 			checkInvalidChange(t, p, q)
